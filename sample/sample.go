@@ -157,3 +157,27 @@ func (s *Source) Edit(cards int) api.Edit {
 	}
 	return e
 }
+
+// Cmd is a command that may be, of cards up to a number, and of requests up to a number.
+func (s *Source) Cmd(cards, reqs int) api.Cmd {
+	c := api.Cmd{Kind: api.DoEdit + s.Below(api.DoTrim)}
+	if s.Below(2) == 0 {
+		c.Kind = api.DoEdit + s.Below(2)
+	}
+	switch c.Kind {
+	case api.DoEdit:
+		c.Edit = s.Edit(cards)
+		return c
+	case api.DoTrim:
+		c.Keep = s.Below(20)
+		return c
+	}
+	c.Dev, c.Req = s.Below(api.MaxDevs), 1+s.Below(reqs)
+	switch c.Kind {
+	case api.DoPut:
+		c.ID, c.Base, c.Patch = 1+s.Below(cards), 1+s.Below(3), s.PatchOf(1<<s.Below(api.Fields+1))
+	case api.DoSub:
+		c.Filter, c.Mask = s.Fit(), s.Mask()|7
+	}
+	return c
+}
