@@ -142,7 +142,7 @@ func TestCalm(t *testing.T) {
 	if n, quiet := bound.Calm(w, 0, 2, 2, nil); n != 0 || quiet {
 		t.Errorf("Calm of a world that is Down = %d, %v", n, quiet)
 	}
-	// A device whose write may not be said is never quiet, and talks as often as it may.
+	// Two writes are said, and what came of them is told.
 	w = some(t, want(0))
 	bound.Calm(w, 0, 2, 1, nil)
 	for range 3 {
