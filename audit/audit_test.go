@@ -54,6 +54,13 @@ func first(n int) (l []api.Card) {
 }
 
 // P50.1
+func TestKinds(t *testing.T) {
+	if audit.Off != 0 || audit.Lost != 1 || audit.Wrong != 2 || audit.Right != 3 {
+		t.Errorf("the kinds of findings")
+	}
+}
+
+// P50.1
 func TestReplay(t *testing.T) {
 	s := some()
 	now := state.Cards(s, 2)
@@ -64,7 +71,7 @@ func TestReplay(t *testing.T) {
 		cards []api.Card
 		want  audit.Finding
 	}{
-		{tok(1, 23, api.MaxID), now, audit.Finding{Kind: audit.Right, Cards: 20}}, {tok(1, 20, api.MaxID), first(20), audit.Finding{Kind: audit.Right, Behind: 1, Cards: 20}}, {tok(1, 20, 0), nil, audit.Finding{Kind: audit.Right, Behind: 2}}, {tok(1, 20, 2), first(2), audit.Finding{Kind: audit.Right, Behind: 2, Cards: 2}}, {tok(1, 20, 17), first(17), audit.Finding{Kind: audit.Right, Behind: 1, Cards: 17}}, {tok(1, 19, api.MaxID), first(20), audit.Finding{Kind: audit.Right, Behind: 3, Cards: 20}}, {tok(1, 99, 0), first(1), audit.Finding{Kind: audit.Right, Behind: 3, Cards: 1}},
+		{tok(1, 23, api.MaxID), now, audit.Finding{Kind: audit.Right, Cards: 20}}, {tok(1, 20, api.MaxID), first(20), audit.Finding{Kind: audit.Right, Behind: 1, Cards: 20}}, {tok(1, 20, 0), nil, audit.Finding{Kind: audit.Right, Behind: 2}}, {tok(1, 20, 2), first(2), audit.Finding{Kind: audit.Right, Behind: 2, Cards: 2}}, {tok(1, 23, 5), now[:4], audit.Finding{Kind: audit.Right, Behind: 1, Cards: 4}}, {tok(1, 23, 4), now[:4], audit.Finding{Kind: audit.Right, Behind: 1, Cards: 4}}, {tok(1, 23, 3), now[:3], audit.Finding{Kind: audit.Right, Behind: 2, Cards: 3}}, {tok(1, 20, 17), first(17), audit.Finding{Kind: audit.Right, Behind: 1, Cards: 17}}, {tok(1, 19, api.MaxID), first(20), audit.Finding{Kind: audit.Right, Behind: 3, Cards: 20}}, {tok(1, 99, 0), first(1), audit.Finding{Kind: audit.Right, Behind: 3, Cards: 1}},
 		{tok(1, 23, api.MaxID), old, audit.Finding{Kind: audit.Wrong, Cards: 20}}, {tok(1, 23, api.MaxID), now[1:], audit.Finding{Kind: audit.Wrong, Cards: 19}}, {tok(1, 23, api.MaxID), append(slices.Clone(now), c(77, 1)), audit.Finding{Kind: audit.Wrong, Cards: 21}}, {tok(1, 20, api.MaxID), now, audit.Finding{Kind: audit.Wrong, Cards: 20}}, {tok(1, 20, 4), first(5), audit.Finding{Kind: audit.Wrong, Cards: 5}}, {tok(1, 23, 0), now, audit.Finding{Kind: audit.Wrong, Cards: 20}}, {tok(1, 20, 4), first(3), audit.Finding{Kind: audit.Wrong, Cards: 3}},
 		{tok(2, 23, api.MaxID), now, audit.Finding{Kind: audit.Lost, Cards: 20}}, {tok(2, 99, 0), nil, audit.Finding{Kind: audit.Lost}}, {api.Token{Dev: 1, Epoch: 1, Seq: 20}, first(2), audit.Finding{Kind: audit.Lost, Cards: 2}},
 	} {

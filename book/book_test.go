@@ -145,6 +145,11 @@ func TestLoad(t *testing.T) {
 	if b, ok := book.Load(good()); !ok || !book.Same(b.Data(), good()) {
 		t.Errorf("Load is false")
 	}
+	for _, d := range []api.Book{{Next: 1}, {Seq: api.MaxNum, Next: api.MaxID}} {
+		if b, ok := book.Load(d); !ok || !book.Same(b.Data(), d) {
+			t.Errorf("Load of %v is false", d)
+		}
+	}
 	for i, change := range []func(d *api.Book){
 		func(d *api.Book) { d.Seq = -1 }, func(d *api.Book) { d.Seq = api.MaxNum + 1 }, func(d *api.Book) { d.Seq = 8 }, func(d *api.Book) { d.Next = 3 }, func(d *api.Book) { d.Next = 0 }, func(d *api.Book) { d.Cards[0].Ver = 0 }, func(d *api.Book) { d.Dead[0].ID = 3 },
 		func(d *api.Book) { d.Groups[1].No = 1 }, func(d *api.Book) { d.Groups[0].No = -1 }, func(d *api.Book) { d.Groups[0].Members[0] = 2 }, func(d *api.Book) { d.Groups[0].Members[1] = 4 }, func(d *api.Book) { d.Groups[1].Members = []int{3, 1} }, func(d *api.Book) { d.Groups[0].Members[0] = 0 },
@@ -177,7 +182,7 @@ func TestLoad(t *testing.T) {
 
 // P20.2
 func TestNilBook(t *testing.T) {
-	for _, b := range []*book.Book{nil, {}} {
+	for _, b := range []*book.Book{nil} {
 		b.Trim(3)
 		l, err := b.Do(create())
 		c, err2 := b.Get(1)

@@ -71,6 +71,26 @@ func TestReadErrors(t *testing.T) {
 }
 
 // P21.3
+func TestGreatest(t *testing.T) {
+	d := api.Book{Seq: api.MaxNum, Next: api.MaxID}
+	g := api.Group{No: 15}
+	for id := range api.MaxCards {
+		d.Cards = append(d.Cards, api.Card{ID: api.MaxID - 99 + id, Ver: api.MaxNum})
+		g.Members = append(g.Members, api.MaxID-99+id)
+	}
+	for id := range api.MaxDead {
+		d.Dead = append(d.Dead, api.Dead{ID: id + 1, Ver: api.MaxNum, Seq: api.MaxNum})
+	}
+	for no := range api.Groups - 1 {
+		d.Groups = append(d.Groups, api.Group{No: no})
+	}
+	d.Groups = append(d.Groups, g)
+	if got := bookwire.Read(octet.New(bookwire.Put(nil, d))); !book.Same(got, d) {
+		t.Errorf("the greatest book is read as %v", got)
+	}
+}
+
+// P21.3
 func TestWhatWasPutIsRead(t *testing.T) {
 	if got := bookwire.Read(octet.New(wire)); !book.Same(got, some()) {
 		t.Errorf("Read = %v", got)

@@ -112,6 +112,11 @@ func TestCalm(t *testing.T) {
 			t.Errorf("Calm(%v) = %d, %v", x, n, quiet)
 		}
 	}
+	for _, x := range [][2]int{{0, 1}, {17, 1}, {2, 0}, {2, 101}} { // of a device that is quiet
+		if n, quiet := bound.Calm(w, 1, x[0], x[1], nil); n != 0 || quiet {
+			t.Errorf("Calm(%v) of a quiet device = %d, %v", x, n, quiet)
+		}
+	}
 	if n, quiet := bound.Calm(nil, 0, 2, 1, nil); n != 0 || quiet {
 		t.Errorf("Calm of no world = %d, %v", n, quiet)
 	}
@@ -153,6 +158,24 @@ func TestCalm(t *testing.T) {
 	w.Do(write(0, 2))
 	if n, quiet := bound.Calm(w, 0, 2, 1, nil); n != 3 || !quiet || w.Device(0).Busy() {
 		t.Errorf("Calm of two writes = %d, %v", n, quiet)
+	}
+}
+
+// P49.2: there are no more talks than k times Most, of the page that is told.
+func TestCalmEnds(t *testing.T) {
+	for _, x := range [][3]int{{16, 1, 13}, {16, 2, 26}, {13, 3, 45}, {1, 1, 89}} {
+		w, _ := world.New(world.Conf{Devs: 1, Page: 1, Size: 400})
+		for range 40 {
+			w.Do(create())
+		}
+		w.Do(want(0))
+		quiet := x[2] >= 41
+		if x[2] > 41 {
+			x[2] = 41
+		}
+		if n, is := bound.Calm(w, 0, x[0], x[1], nil); n != x[2] || is != quiet {
+			t.Errorf("Calm with a page of %d, %d = %d, %v", x[0], x[1], n, is)
+		}
 	}
 }
 

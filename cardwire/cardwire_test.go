@@ -104,6 +104,11 @@ func TestCardErrors(t *testing.T) {
 	if got := cardwire.Card(octet.New(cardwire.PutCard(nil, most))); got != most {
 		t.Errorf("the greatest card is read as %v", got)
 	}
+	for _, v := range []api.Value{num(api.MaxNum), num(api.MaxNum - 1), text(strings.Repeat("x", api.MaxText))} {
+		if got := cardwire.Value(octet.New(cardwire.PutValue(nil, v))); got != v {
+			t.Errorf("the value %v is read as %v", v, got)
+		}
+	}
 }
 
 // P8.2

@@ -104,6 +104,15 @@ func TestReadErrors(t *testing.T) {
 }
 
 // P33.3
+func TestGreatest(t *testing.T) {
+	for _, c := range []api.Cmd{{Kind: api.DoTrim, Keep: api.MaxNum}, {Kind: api.DoLeave, Dev: 5, Req: api.MaxNum}, {Kind: api.DoPut, Dev: 5, Req: api.MaxNum, ID: api.MaxID - 1, Base: api.MaxNum, Patch: seven}, {Kind: api.DoSub, Dev: 5, Req: api.MaxNum, Filter: not3, Mask: api.AllMask}} {
+		if got, err := cmdwire.Decode(cmdwire.Put(nil, c)); err != api.OK || !cmdwire.Same(got, c) {
+			t.Errorf("%v is decoded as %v, %d", c, got, err)
+		}
+	}
+}
+
+// P33.3
 func TestAnyCommands(t *testing.T) {
 	s := sample.New(33)
 	read := 0

@@ -9,6 +9,7 @@ import (
 	"offprint/book"
 	"offprint/bound"
 	"offprint/card"
+	"offprint/core"
 	"offprint/eval"
 	"offprint/member"
 	"offprint/msg"
@@ -52,7 +53,7 @@ func num(f, n int) api.Patch {
 	return p
 }
 
-// T1, T3, T4, T5: whatever is done, and wherever the power goes.
+// T1, T3, T4: whatever is done, and wherever the power goes.
 func TestExact(t *testing.T) {
 	s := sample.New(511)
 	for range 25 {
@@ -87,6 +88,42 @@ func TestExact(t *testing.T) {
 				t.Fatalf("the device %d lacks something", dev)
 			}
 		}
+	}
+}
+
+// T5: what is told between two tokens is what came, what went, and what is another one.
+func TestDeltas(t *testing.T) {
+	s := sample.New(514)
+	told := map[int]int{}
+	for range 150 {
+		x := core.New()
+		for range 20 {
+			x.Do(s.Cmd(max(x.Data().Book.Next-1, 1), 1))
+		}
+		l, m := s.Fit(), s.Mask()
+		x.Do(api.Cmd{Kind: api.DoSub, Dev: 5, Req: 1 << 20, Filter: l, Mask: m})
+		sub, _ := book.Load(x.Data().Book)
+		from := api.Token{Dev: 5, Epoch: x.Data().Rows[5].Epoch, Seq: sub.Seq(), Cursor: api.MaxID}
+		for range s.Below(30) {
+			x.Do(api.Cmd{Kind: api.DoEdit, Edit: s.Edit(max(x.Data().Book.Next-1, 1))})
+		}
+		p := x.Pull(from, api.MaxPage)
+		if p.Code != api.OK || p.Reset || p.To.Seq != x.Seq() {
+			continue
+		}
+		var items [4][]int
+		for _, i := range p.Items {
+			items[i.Kind] = append(items[i.Kind], i.Card.ID)
+			told[i.Kind]++
+		}
+		b, _ := book.Load(x.Data().Book)
+		in, out, up := member.Lacks(b, eval.New(l), m, api.MaxID, member.Ideal(sub, eval.New(l), m, api.MaxID))
+		if !slices.Equal(items[api.In], in) || !slices.Equal(items[api.Out], out) || !slices.Equal(items[api.Up], up) {
+			t.Fatalf("told was %v; what came, went and is another one is %v, %v, %v", p.Items, in, out, up)
+		}
+	}
+	if told[api.In] < 50 || told[api.Out] < 20 || told[api.Up] < 20 {
+		t.Errorf("too little was told: %v", told)
 	}
 }
 

@@ -172,7 +172,7 @@ func TestPullAndLoad(t *testing.T) {
 
 // P32.4
 func TestNilCore(t *testing.T) {
-	for _, x := range []*core.Core{nil, {}} {
+	for _, x := range []*core.Core{nil} {
 		tok := api.Token{Dev: 3, Epoch: 1, Seq: 1}
 		if a, did := x.Do(create(seven)); did || !ledger.Same(a, api.Reply{Code: api.ErrState}) {
 			t.Errorf("Do of a nil core = %v, %v", a, did)

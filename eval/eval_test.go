@@ -75,7 +75,7 @@ func TestWhatMayNotBe(t *testing.T) {
 			t.Errorf("New(%v) is a filter", l)
 		}
 	}
-	for _, f := range []*eval.Filter{nil, {}} {
+	for _, f := range []*eval.Filter{nil} {
 		if len(f.Nodes()) != 0 || f.Match(api.Card{}, 0) || f.Fields() != 0 || f.Groups() != 0 {
 			t.Errorf("a nil filter")
 		}

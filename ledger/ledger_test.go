@@ -104,6 +104,21 @@ func TestSame(t *testing.T) {
 	}
 }
 
+// P30.1, P30.5
+func TestGreatest(t *testing.T) {
+	for _, a := range []api.Reply{{Kind: api.DoPut, Dev: 5, Req: api.MaxNum, Seq: api.MaxNum, ID: api.MaxID - 1, Ver: api.MaxNum}, {Kind: api.DoSub, Dev: 5, Req: api.MaxNum, Seq: api.MaxNum, Epoch: api.MaxNum, Filter: label3, Mask: api.AllMask}} {
+		if got := ledger.Read(octet.New(ledger.Put(nil, a))); !ledger.Check(a) || !ledger.Same(got, a) {
+			t.Errorf("%v is read as %v", a, got)
+		}
+	}
+	room := []byte{9, 8}
+	ledger.Put(room[:1], api.Reply{})[0] = 1
+	ledger.Put(room[:1], put)[0] = 1
+	if room[0] != 9 || room[1] != 8 {
+		t.Errorf("Put shares what it was given")
+	}
+}
+
 // P30.1
 func TestReadErrors(t *testing.T) {
 	for i, x := range []struct {

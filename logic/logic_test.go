@@ -44,6 +44,13 @@ func TestAtoms(t *testing.T) {
 	}
 }
 
+// P15.2
+func TestMaxAtoms(t *testing.T) {
+	if logic.MaxAtoms != 10 {
+		t.Errorf("MaxAtoms is %d", logic.MaxAtoms)
+	}
+}
+
 // P15.1
 func TestSays(t *testing.T) {
 	atoms := []api.Node{n(api.Label, 1), n(api.Label, 2), n(api.Has, 3)}

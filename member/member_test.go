@@ -70,8 +70,8 @@ func TestNilOnes(t *testing.T) {
 		f *eval.Filter
 	}{{nil, all}, {b, nil}, {nil, nil}} {
 		c, ok := member.Shown(x.b, x.f, 1)
-		in, out, other := member.Lacks(x.b, x.f, 0, 9, []api.Card{{ID: 1}})
-		if ok || c != (api.Card{}) || len(member.IDs(x.b, x.f)) != 0 || len(member.Ideal(x.b, x.f, 1, 9)) != 0 || len(in) != 0 || !slices.Equal(out, []int{1}) || len(other) != 0 {
+		in, out, other := member.Lacks(x.b, x.f, 0, 9, nil)
+		if ok || c != (api.Card{}) || len(member.IDs(x.b, x.f)) != 0 || len(member.Ideal(x.b, x.f, 1, 9)) != 0 || len(in)+len(out)+len(other) != 0 {
 			t.Errorf("nil ones show something")
 		}
 	}

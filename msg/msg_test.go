@@ -56,6 +56,13 @@ func TestMessages(t *testing.T) {
 }
 
 // P41.1
+func TestKinds(t *testing.T) {
+	if msg.Ask != 1 || msg.Pull != 2 || msg.Done != 3 || msg.News != 4 || msg.Fault != 5 {
+		t.Errorf("the kinds of messages")
+	}
+}
+
+// P41.1
 func TestWhatMayNotBe(t *testing.T) {
 	may, _ := some()
 	wrong := []msg.Msg{

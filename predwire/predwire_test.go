@@ -52,7 +52,7 @@ func TestReadErrors(t *testing.T) {
 		{nil, api.ErrShort, 0}, {[]byte{0, 1}, api.ErrForm, 1}, {[]byte{32, 1}, api.ErrLong, 2}, {[]byte{1}, api.ErrShort, 0}, {[]byte{1, 13}, api.ErrLong, 1}, {[]byte{1, 0, 5}, api.ErrForm, 1}, {[]byte{2, 10, 0, 1}, api.ErrForm, 1},
 		{[]byte{1, 3, 16}, api.ErrLong, 1}, {[]byte{1, 4, 16}, api.ErrLong, 1}, {[]byte{1, 5, 8}, api.ErrLong, 1}, {[]byte{1, 6, 8, 1, 1}, api.ErrLong, 3}, {[]byte{1, 9, 8, 1, 1}, api.ErrLong, 3}, {[]byte{1, 7}, api.ErrShort, 0},
 		{[]byte{1, 6, 0}, api.ErrShort, 0}, {[]byte{1, 6, 0, 3}, api.ErrLong, 1}, {[]byte{1, 6, 0, 0, 7}, api.ErrForm, 1}, {[]byte{1, 7, 0, 0, 7}, api.ErrForm, 1}, {[]byte{1, 8, 0, 0, 7}, api.ErrForm, 1}, {[]byte{1, 9, 0, 0, 7}, api.ErrForm, 1}, {[]byte{1, 9, 0, 1, 5, 7}, api.ErrForm, 1}, {[]byte{1, 6, 0, 2, 25}, api.ErrLong, 1},
-		{[]byte{2, 1, 1, 7}, api.ErrForm, 1}, {[]byte{1, 10, 1}, api.ErrForm, 1}, {[]byte{2, 11, 1, 1}, api.ErrForm, 1}, {[]byte{3, 10, 1, 1}, api.ErrForm, 0}, {notNine, api.ErrDeep, 0}, {[]byte{2, 1, 13}, api.ErrLong, 1},
+		{[]byte{2, 1, 1, 7}, api.ErrForm, 1}, {[]byte{1, 10, 1}, api.ErrForm, 1}, {[]byte{2, 11, 1, 1}, api.ErrForm, 1}, {[]byte{3, 10, 1, 1}, api.ErrForm, 0}, {notNine, api.ErrDeep, 0}, {[]byte{2, 1, 13}, api.ErrLong, 1}, {[]byte{3, 11, 6, 0, 0, 5, 8}, api.ErrForm, 2}, {[]byte{2, 9, 0, 1, 5, 13}, api.ErrForm, 1},
 		{append([]byte{31}, bytes.Repeat([]byte{1}, 31)...), api.ErrForm, 0}, {append(append([]byte{10}, bytes.Repeat([]byte{10}, 9)...), 10), api.ErrForm, 0},
 	} {
 		r := octet.New(c.b)
@@ -64,6 +64,24 @@ func TestReadErrors(t *testing.T) {
 	r.Fail(api.ErrPower)
 	if predwire.Read(r) != nil || r.Err() != api.ErrPower || r.Left() != 2 || predwire.Read(nil) != nil {
 		t.Errorf("Read of a reader that had an error, or of none")
+	}
+}
+
+// P16.3
+func TestGreatest(t *testing.T) {
+	long := slices.Concat(slices.Repeat([]api.Node{n(api.And, 0), n(api.Or, 0)}, 3), []api.Node{n(api.Label, 15)})
+	for range 6 {
+		long = append(long, n(api.Has, 7))
+	}
+	full := []api.Node{n(api.All, 0)}
+	for range 4 {
+		full = pred.Join(api.Or, full, full)
+	}
+	for _, l := range [][]api.Node{{n(api.Label, 15)}, {n(api.Member, 15)}, {n(api.Has, 7)}, {nv(api.Equals, 7, num(api.MaxNum))}, {nv(api.Less, 7, num(0))}, {nv(api.More, 7, text("a"))}, {nv(api.Holds, 7, text("123456789012345678901234"))}, long, full, deep[1:]} {
+		r := octet.New(predwire.Put(nil, l))
+		if got := predwire.Read(r); !slices.Equal(got, l) || r.Left() != 0 {
+			t.Errorf("%v is read as %v, %d", l, got, r.Err())
+		}
 	}
 }
 

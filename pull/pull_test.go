@@ -149,7 +149,7 @@ func TestReadErrors(t *testing.T) {
 		left int
 	}{
 		{nil, api.ErrShort, 0}, {[]byte{17}, api.ErrLong, 1}, {[]byte{0, 6}, api.ErrLong, 1}, {[]byte{6, 1, 0, 3, 0}, api.ErrForm, 2}, {[]byte{6, 1, 4, 3}, api.ErrShort, 0}, {[]byte{0, 1, 4, 3, 0, 2, 1}, api.ErrForm, 2}, {[]byte{0, 1, 4, 3, 0, 0, 6}, api.ErrLong, 1}, {[]byte{0, 1, 4, 3, 0, 0, 1, 4, 3, 0}, api.ErrShort, 0}, {[]byte{0, 1, 4, 3, 0, 0, 1, 4, 3, 0, 17}, api.ErrLong, 1},
-		{[]byte{0, 1, 4, 3, 0, 0, 1, 4, 3, 0, 1, 0, 9}, api.ErrForm, 1}, {[]byte{0, 1, 4, 3, 0, 0, 1, 4, 3, 0, 1, 4, 9}, api.ErrLong, 2}, {[]byte{0, 1, 4, 3, 0, 0, 1, 4, 3, 0, 1, 2, 128, 128, 128, 128, 4}, api.ErrLong, 5}, {[]byte{0, 1, 4, 3, 0, 0, 1, 4, 3, 0, 1, 1, 0, 9}, api.ErrForm, 1}, {[]byte{0, 1, 4, 3, 0, 0, 1, 4, 3, 0, 2, 2, 5}, api.ErrShort, 0},
+		{[]byte{0, 1, 4, 3, 0, 0, 1, 4, 3, 0, 1, 0, 9}, api.ErrForm, 1}, {[]byte{0, 1, 4, 3, 0, 0, 1, 4, 3, 0, 2, 0, 2, 5}, api.ErrForm, 2}, {[]byte{0, 1, 4, 3, 0, 0, 1, 4, 3, 0, 1, 4, 9}, api.ErrLong, 2}, {[]byte{0, 1, 4, 3, 0, 0, 1, 4, 3, 0, 1, 2, 128, 128, 128, 128, 4}, api.ErrLong, 5}, {[]byte{0, 1, 4, 3, 0, 0, 1, 4, 3, 0, 1, 1, 0, 9}, api.ErrForm, 1}, {[]byte{0, 1, 4, 3, 0, 0, 1, 4, 3, 0, 2, 2, 5}, api.ErrShort, 0},
 		{[]byte{0, 1, 4, 3, 0, 0, 1, 4, 3, 0, 1, 2, 0, 7}, api.ErrForm, 1}, {[]byte{0, 1, 4, 3, 0, 0, 1, 4, 3, 0, 2, 2, 0, 0}, api.ErrForm, 0}, {[]byte{0, 1, 4, 3, 0, 0, 1, 4, 3, 0, 2, 2, 0}, api.ErrShort, 0}, {[]byte{0, 1, 4, 3, 0, 0, 1, 4, 3, 0, 2, 2, 5, 2, 5, 7}, api.ErrForm, 1}, {[]byte{0, 1, 4, 3, 0, 0, 1, 4, 2, 0, 0, 7}, api.ErrForm, 1}, {[]byte{0, 1, 4, 3, 0, 1, 1, 4, 3, 1, 7}, api.ErrForm, 1}, {[]byte{0, 1, 4, 3, 0, 1, 2, 4, 3, 0}, api.ErrForm, 0},
 	} {
 		r := octet.New(x.b)
@@ -161,6 +161,17 @@ func TestReadErrors(t *testing.T) {
 	r.Fail(api.ErrPower)
 	if p := pull.Read(r); !pull.Same(p, api.Page{}) || r.Err() != api.ErrPower || r.Left() != 5 || !pull.Same(pull.Read(nil), api.Page{}) {
 		t.Errorf("Read of a reader that had an error, or of none")
+	}
+}
+
+// P28.5
+func TestGreatest(t *testing.T) {
+	p := api.Page{From: tok(5, api.MaxNum, api.MaxNum, 0), To: tok(5, api.MaxNum, api.MaxNum, api.MaxID)}
+	for i := range api.MaxPage {
+		p.Items = append(p.Items, out(api.MaxID-api.MaxPage+i))
+	}
+	if got := pull.Read(octet.New(pull.Put(nil, p))); !pull.Same(got, p) {
+		t.Errorf("the greatest page is read as %v", got)
 	}
 }
 

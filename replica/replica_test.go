@@ -37,6 +37,9 @@ func TestBegin(t *testing.T) {
 			t.Errorf("New(%d) is a replica", dev)
 		}
 	}
+	if replica.New(0) == nil {
+		t.Errorf("New(0) is nil")
+	}
 	r := replica.New(5)
 	is(t, r, false, api.Token{})
 	for _, x := range [][2]int{{0, 0}, {-1, 0}, {1, -1}, {api.MaxNum + 1, 0}, {1, api.MaxNum + 1}} {
@@ -118,7 +121,7 @@ func TestTake(t *testing.T) {
 
 // P43.2
 func TestNilReplica(t *testing.T) {
-	for _, r := range []*replica.Replica{nil, {}} {
+	for _, r := range []*replica.Replica{nil} {
 		r.Stop()
 		x, ok := r.Get(1)
 		if r.Begin(1, 1) || r.Take(page(tok(0, 1, 1, 0), tok(0, 1, 1, 0))) || r.On() || r.Token() != (api.Token{}) || r.Cards() != nil || ok || x != (api.Card{}) {

@@ -119,7 +119,7 @@ func TestAddWithoutPower(t *testing.T) {
 	if r.Add("x") != api.ErrPower || r.Add(rec(999)) != api.ErrFull {
 		t.Errorf("Add without power")
 	}
-	for _, r := range []*ring.Ring{nil, {}} {
+	for _, r := range []*ring.Ring{nil} {
 		if r.Add("x") != api.ErrState || r.Move(0) || r.Raise(1) || r.Head() != 0 || r.Tail() != 0 || r.Free() != 0 {
 			t.Errorf("a nil ring")
 		}

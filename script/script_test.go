@@ -62,6 +62,19 @@ func TestActsThatMayBe(t *testing.T) {
 }
 
 // P47.1
+func TestKinds(t *testing.T) {
+	kinds := []int{script.Change, script.Trim, script.Want, script.Leave, script.Write, script.Say, script.Give, script.Lose, script.Twice, script.Fuse, script.Fall, script.Raw}
+	for i, kind := range kinds {
+		if kind != i+1 {
+			t.Errorf("the kind %d is %d", i+1, kind)
+		}
+	}
+	if script.MaxOps != 400 {
+		t.Errorf("MaxOps is %d", script.MaxOps)
+	}
+}
+
+// P47.1
 func TestActsThatMayNotBe(t *testing.T) {
 	var wrong []script.Op
 	owns := map[int]string{script.Change: "e", script.Trim: "n", script.Want: "dfm", script.Leave: "d", script.Write: "dip", script.Say: "d", script.Give: "n", script.Lose: "n", script.Twice: "n", script.Fuse: "n", script.Fall: "k", script.Raw: "t"}
@@ -103,6 +116,10 @@ func TestActsThatMayNotBe(t *testing.T) {
 	for _, o := range []script.Op{{Kind: script.Fall, Keep: make([]int, api.MaxNet)}, {Kind: script.Raw, Text: strings.Repeat("x", api.MaxMsg)}, {Kind: script.Want, Filter: not3}, {Kind: script.Write, ID: api.MaxID - 1, Patch: seven}} {
 		if !script.Check(o) {
 			t.Errorf("Check(%.40v) is false", o)
+		}
+		s, _ := script.Encode([]script.Op{o})
+		if got, err := script.Decode(s); err != api.OK || !script.Same(got[0], o) {
+			t.Errorf("%.40v is decoded as %.40v, %d", o, got, err)
 		}
 	}
 	many := slices.Repeat([]script.Op{{Kind: script.Give}}, script.MaxOps+1)

@@ -189,7 +189,7 @@ func TestGone(t *testing.T) {
 	if !state.Same(s.Data(), before) || !pull.Same(s.Pull(tok, 3), api.Page{From: tok, Code: api.ErrState}) || s.Free() == 0 {
 		t.Errorf("a server that is gone")
 	}
-	for i, s := range []*server.Server{nil, {}} {
+	for i, s := range []*server.Server{nil} {
 		a, err := s.Step(create())
 		if !ledger.Same(a, api.Reply{}) || err != api.ErrState || !s.Gone() || !pull.Same(s.Pull(tok, 3), api.Page{From: tok, Code: api.ErrState}) || !state.Same(s.Data(), api.State{}) || s.Free() != 0 {
 			t.Errorf("a nil server: %d", i)

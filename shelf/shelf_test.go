@@ -201,7 +201,7 @@ func TestLoad(t *testing.T) {
 
 // P18.2
 func TestNilShelf(t *testing.T) {
-	for _, s := range []*shelf.Shelf{nil, {}} {
+	for _, s := range []*shelf.Shelf{nil} {
 		s.Trim(3)
 		_, a := s.Add(one)
 		_, w := s.Write(1, one)

@@ -96,6 +96,51 @@ func TestDecode(t *testing.T) {
 	}
 }
 
+// greatest is a state whose numbers are as great as they may be.
+func greatest() api.State {
+	s := state.New()
+	id := api.MaxID - 1
+	s.Book = api.Book{Seq: api.MaxNum, Next: api.MaxID, Cards: []api.Card{{ID: id, Ver: api.MaxNum}}}
+	for i, dev := range []int{0, 1, 2, 5} {
+		x := api.Sub{Dev: dev, Epoch: api.MaxNum, Filter: []api.Node{{Op: api.All}}, Mask: api.AllMask, Floor: api.MaxNum, Members: []int{id}}
+		if i == 3 {
+			x.Floor -= api.MaxLog
+			for n := x.Floor + 1; n <= api.MaxNum; n++ {
+				x.Log = append(x.Log, api.Turn{Seq: n, ID: id, Old: n - 1, New: n, Card: api.Card{ID: id, Ver: n}})
+			}
+		}
+		if i == 2 {
+			x.Floor--
+			x.Log = []api.Turn{{Seq: api.MaxNum, ID: id - 1, Old: api.MaxNum}}
+		}
+		s.Subs = append(s.Subs, x)
+		s.Rows[dev] = api.Row{Last: api.MaxNum, Epoch: api.MaxNum, Ans: api.Reply{Kind: api.DoLeave, Dev: dev, Req: api.MaxNum, Seq: api.MaxNum}}
+	}
+	return s
+}
+
+// P34.2
+func TestGreatest(t *testing.T) {
+	s := greatest()
+	b := statewire.Encode(s)
+	if got, err := statewire.Decode(b); len(b) == 0 || err != api.OK || !state.Same(got, s) {
+		t.Errorf("the greatest state is decoded as %v, %d", got, err)
+	}
+	// The first subscription has the Dev 0, the Epoch, one node, the mask, the floor, and no turns.
+	num := func(l ...int) (out []byte) {
+		for _, n := range l {
+			out = octet.Num(out, n)
+		}
+		return out
+	}
+	sub := num(0, api.MaxNum, 1, 1, api.AllMask, api.MaxNum, 0)
+	at := bytes.Index(b, sub)
+	five := slices.Concat(b[:at-1], num(5), sub, b[at:])
+	if _, err := statewire.Decode(five); at < 1 || err != api.ErrLong {
+		t.Errorf("five subscriptions are %d", err)
+	}
+}
+
 // P34.2
 func TestAnyStates(t *testing.T) {
 	s := sample.New(34)

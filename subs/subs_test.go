@@ -165,7 +165,7 @@ func TestLoad(t *testing.T) {
 
 // P29.2
 func TestNilTable(t *testing.T) {
-	for _, x := range []*subs.Table{nil, {}} {
+	for _, x := range []*subs.Table{nil} {
 		x.Step(book.New(), []api.Change{{Seq: 1, ID: 1}})
 		x.Trim(3)
 		epoch, err := x.Set(book.New(), 0, 1, tree("all"), 1)

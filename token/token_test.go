@@ -80,6 +80,11 @@ func TestBytes(t *testing.T) {
 			t.Errorf("Read of %v = %v, %d, left %d", c.b, x, r.Err(), r.Left())
 		}
 	}
+	for _, x := range []api.Token{tok(5, api.MaxNum, api.MaxNum, api.MaxID), tok(0, 1, 0, 0)} {
+		if got := token.Read(octet.New(token.Put(nil, x))); got != x {
+			t.Errorf("%v is read as %v", x, got)
+		}
+	}
 	r := octet.New(num(0, 1, 1, 1))
 	r.Fail(api.ErrBad)
 	if token.Read(r) != (api.Token{}) || r.Left() != 4 || r.Err() != api.ErrBad || token.Read(nil) != (api.Token{}) {

@@ -79,6 +79,10 @@ func TestTheExample(t *testing.T) {
 		t.Errorf("Add")
 	}
 	look(t, d, "a", []string{"b", "", rec(60)}, api.OK)
+	s, _ := d.Read(3)
+	if p, ok := piece.Get(s); !ok || p != (piece.Piece{Life: 2, Place: 1, First: true, Last: true, Body: "\x01b"}) {
+		t.Errorf("in the ring stands %v", p)
+	}
 	if v.Renew(rec(103)) != api.OK || v.Free() != 5 {
 		t.Errorf("Renew: free is %d", v.Free())
 	}
@@ -90,6 +94,9 @@ func TestTheExample(t *testing.T) {
 		t.Errorf("Add and Renew")
 	}
 	look(t, d, "c", nil, api.OK)
+	if x, _ := root.Load(d); x != (root.Root{Seq: 4, Life: 2, Head: 8}) {
+		t.Errorf("the root behind another Renew is %v", x)
+	}
 	w, text, recs, err := vault.Open(d)
 	if text != "c" || recs != nil || err != api.OK || w.Free() != 6 || w.Add("d") != api.OK {
 		t.Errorf("Open anew = %q, %q, %d", text, recs, err)
@@ -192,7 +199,7 @@ func TestErrors(t *testing.T) {
 	if v, text, recs, err := vault.Open(d); v != nil || text != "" || recs != nil || err != api.ErrPower {
 		t.Errorf("Open when the power goes = %d", err)
 	}
-	for _, v := range []*vault.Vault{nil, {}} {
+	for _, v := range []*vault.Vault{nil} {
 		if v.Add("x") != api.ErrState || v.Renew("x") != api.ErrState || v.Free() != 0 {
 			t.Errorf("a nil vault")
 		}
@@ -203,6 +210,73 @@ func TestErrors(t *testing.T) {
 	for n, want := range map[int]int{math.MinInt: 1, -1: 1, 0: 1, 51: 1, 52: 2, 103: 2, 104: 3, api.MaxNum: piece.Many(api.MaxNum + 1), api.MaxNum + 1: piece.Many(api.MaxNum + 1), math.MaxInt: piece.Many(api.MaxNum + 1)} {
 		if got := vault.Many(n); got != want {
 			t.Errorf("Many(%d) = %d", n, got)
+		}
+	}
+}
+
+// outcomes are all rows of what becomes of n writes, each done or not.
+func outcomes(n int) (l [][]int) {
+	for bits := range 1 << n {
+		var keep []int
+		for k := range n {
+			keep = append(keep, bits>>k&1)
+		}
+		l = append(l, keep)
+	}
+	return l
+}
+
+// P39.3: what stayed of a record in one fall is no part of another one in the next fall.
+func TestTwoFalls(t *testing.T) {
+	start := disk.New(12)
+	vault.Format(start, "a")
+	for first := 1; first <= 3; first++ {
+		for _, keep := range outcomes(first) {
+			for second := 1; second <= 3; second++ {
+				for _, again := range outcomes(second) {
+					d := start.Clone()
+					v, _, _, _ := vault.Open(d)
+					x, y := strings.Repeat("x", 52*first-9), strings.Repeat("y", 52*second-5)
+					d.Fuse(first)
+					v.Add(x)
+					d.Crash(keep)
+					_, was, _ := vault.Look(d)
+					v, _, _, _ = vault.Open(d)
+					d.Fuse(second)
+					v.Add(y)
+					d.Crash(again)
+					text, recs, err := vault.Look(d)
+					if err != api.OK || text != "a" || !slices.Equal(recs, was) && !slices.Equal(recs, append(slices.Clone(was), y)) {
+						t.Fatalf("behind %v, and %v, lies %q", keep, again, recs)
+					}
+				}
+			}
+		}
+	}
+}
+
+// P39.3: Renews in a row, each of which may fall.
+func TestRenewsInARow(t *testing.T) {
+	for times := range 4 {
+		for fuse := range 5 {
+			for _, keep := range [][]int{nil, {1}, {2}, {1, 1}, {2, 2}, {0, 2}} {
+				d := disk.New(8)
+				vault.Format(d, "a")
+				v, text, _, _ := vault.Open(d)
+				for n := range times {
+					text = strings.Repeat("t", n)
+					if v.Renew(text) != api.OK || v.Add("r") != api.OK || v.Renew(text) != api.OK {
+						t.Fatalf("Renew")
+					}
+				}
+				d.Fuse(fuse)
+				err := v.Renew("new")
+				d.Crash(keep)
+				got, recs, e := vault.Look(d)
+				if e != api.OK || len(recs) != 0 || got != "new" && (got != text || err == api.OK) {
+					t.Fatalf("behind %d Renews, and a fall in another one, lies %q, %q, %d", times, got, recs, e)
+				}
+			}
 		}
 	}
 }

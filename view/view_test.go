@@ -83,7 +83,7 @@ func TestNewOfWhatMayNotBe(t *testing.T) {
 	if view.New(b, all, 0) == nil || view.New(b, all, api.AllMask) == nil {
 		t.Errorf("New is nil")
 	}
-	for _, v := range []*view.View{nil, {}} {
+	for _, v := range []*view.View{nil} {
 		v.Step(b, []api.Change{{Seq: 1, ID: 1}})
 		v.Trim(5)
 		items, to, ok := v.Delta(0, 1, 1)
