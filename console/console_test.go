@@ -82,6 +82,10 @@ func TestErrors(t *testing.T) {
 			t.Errorf("Play(%v, %q) = %q, %d", x.c, x.text, got, err)
 		}
 	}
+	w, _ := world.New(world.Conf{Devs: 6, Page: 1, Size: 9})
+	if got := console.Show(w); strings.Count(got, "\n") != 7 || !strings.HasSuffix(got, "device 5 off cards 0 waits 0 idle reports 0 off\n") {
+		t.Errorf("Show of six devices = %q", got)
+	}
 	if console.Show(nil) != "" {
 		t.Errorf("Show of no world = %q", console.Show(nil))
 	}

@@ -83,7 +83,7 @@ func TestDo(t *testing.T) {
 		did  bool
 	}{
 		{create(with), api.Reply{Kind: 1, Seq: 1, ID: 1}, true}, {create(seven), api.Reply{Kind: 1, Seq: 2, ID: 2}, true}, {drop(9), api.Reply{Kind: 1, Code: api.ErrNone}, false}, {edit(api.Edit{Kind: api.Open, Group: 2}), api.Reply{Kind: 1, Seq: 3}, true}, {edit(api.Edit{Kind: api.Write, ID: 2, Patch: eight}), api.Reply{Kind: 1, Seq: 4}, true},
-		{put(0, 1, 1, 1, seven), api.Reply{Kind: 2, Req: 1, Code: api.ErrState}, true}, {put(0, 1, 1, 1, seven), api.Reply{Kind: 2, Req: 1, Code: api.ErrState}, false}, {leave(0, 2), api.Reply{Kind: 4, Req: 2, Code: api.ErrNone}, true},
+		{put(0, 1, 1, 1, seven), api.Reply{Kind: 2, Req: 1, Code: api.ErrState}, true}, {put(0, 1, 1, 1, seven), api.Reply{Kind: 2, Req: 1, Code: api.ErrState}, false}, {leave(0, 2), api.Reply{Kind: 4, Req: 2, Code: api.ErrNone}, true}, {put(3, 1, 99, 1, seven), api.Reply{Kind: 2, Dev: 3, Req: 1, Code: api.ErrState}, true},
 		{sub(0, 3, label1, 1|api.LabelBit), api.Reply{Kind: 3, Req: 3, Seq: 4, Epoch: 1, Filter: label1, Mask: 1 | api.LabelBit}, true},
 		{sub(0, 2, all, 1), api.Reply{Kind: 3, Req: 2, Code: api.ErrOld}, false}, {leave(0, 1), api.Reply{Kind: 4, Req: 1, Code: api.ErrOld}, false}, {leave(0, 3), api.Reply{Kind: 3, Req: 3, Seq: 4, Epoch: 1, Filter: label1, Mask: 1 | api.LabelBit}, false},
 		{put(0, 4, 9, 1, seven), api.Reply{Kind: 2, Req: 4, Code: api.ErrNone}, true}, {put(0, 5, 2, 1, eight), api.Reply{Kind: 2, Req: 5, Code: api.ErrOut}, true}, {put(0, 6, 1, 9, eight), api.Reply{Kind: 2, Req: 6, Code: api.ErrMask}, true}, {put(0, 7, 1, 2, seven), api.Reply{Kind: 2, Req: 7, Code: api.ErrStale}, true},
