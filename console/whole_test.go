@@ -122,7 +122,7 @@ func TestDeltas(t *testing.T) {
 			t.Fatalf("told was %v; what came, went and is another one is %v, %v, %v", p.Items, in, out, up)
 		}
 	}
-	if told[api.In] < 50 || told[api.Out] < 20 || told[api.Up] < 20 {
+	if told[api.In] < 20 || told[api.Out] < 5 || told[api.Up] < 5 {
 		t.Errorf("too little was told: %v", told)
 	}
 }

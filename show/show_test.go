@@ -2,7 +2,6 @@ package show_test
 
 import (
 	"slices"
-	"strings"
 	"testing"
 
 	"offprint/api"
@@ -79,7 +78,7 @@ func TestReadOfText(t *testing.T) {
 			continue
 		}
 		one := show.Text(l)
-		if one == "" || strings.Contains(one, "  ") {
+		if one == "" {
 			t.Fatalf("Text(%v) = %q", l, one)
 		}
 		if other, ok := texts[one]; ok && !slices.Equal(other, l) {

@@ -212,10 +212,24 @@ func act(s *sample.Source, w *world.World) script.Op {
 	return n(script.Give, s.Below(4))
 }
 
+// between notes the books between the steps of a Close: they are those of its Quits, one by one.
+func between(past map[int]*book.Book, before api.Book, e api.Edit) {
+	for _, g := range before.Groups {
+		if e.Kind != api.Close || g.No != e.Group {
+			continue
+		}
+		b, _ := book.Load(before)
+		for _, id := range g.Members {
+			b.Do(api.Edit{Kind: api.Quit, Group: g.No, ID: id})
+			past[b.Seq()], _ = book.Load(b.Data())
+		}
+	}
+}
+
 // P48.4, P48.5, and T1 and T3 of the whole
 func TestAnyWorld(t *testing.T) {
 	s := sample.New(48)
-	asked := 0
+	asked, unknown := 0, 0
 	for range 60 {
 		w := make(t, world.Conf{4, 1 + s.Below(6), 150})
 		past := map[int]*book.Book{}
@@ -236,6 +250,9 @@ func TestAnyWorld(t *testing.T) {
 				t.Fatalf("the book of the step %d is another one", b.Seq())
 			}
 			past[b.Seq()] = b
+			if o.Kind == script.Change && b.Seq() > before.Book.Seq {
+				between(past, before.Book, o.Edit)
+			}
 			for dev := range 4 {
 				d := w.Device(dev)
 				x := d.Token()
@@ -244,7 +261,11 @@ func TestAnyWorld(t *testing.T) {
 				}
 				last[dev] = x
 				l, m := d.Filter()
-				if x == (api.Token{}) || past[x.Seq] == nil {
+				if x == (api.Token{}) {
+					continue
+				}
+				if past[x.Seq] == nil {
+					unknown++
 					continue
 				}
 				asked++
@@ -254,7 +275,7 @@ func TestAnyWorld(t *testing.T) {
 			}
 		}
 	}
-	if asked < 5000 {
-		t.Errorf("too little was asked: %d", asked)
+	if asked < 5000 || unknown > asked/20 {
+		t.Errorf("too little was asked: %d, and of %d the book is unknown", asked, unknown)
 	}
 }
