@@ -35,7 +35,7 @@ func write(dev, id int, p api.Patch) script.Op {
 }
 func raw(text string) script.Op { return script.Op{Kind: script.Raw, Text: text} }
 
-func make(t *testing.T, c world.Conf) *world.World {
+func opened(t *testing.T, c world.Conf) *world.World {
 	t.Helper()
 	w, err := world.New(c)
 	if err != api.OK {
@@ -80,7 +80,7 @@ func TestNew(t *testing.T) {
 
 // P48.2
 func TestTheExample(t *testing.T) {
-	w := make(t, world.Conf{1, 1, 60})
+	w := opened(t, world.Conf{1, 1, 60})
 	run(t, w, create(), want(0), dev(script.Say, 0))
 	if p, _ := w.Net().Look(0); p.From != 0 || p.To != -1 || w.Net().Len() != 1 {
 		t.Errorf("the packet %v", p)
@@ -103,7 +103,7 @@ func TestTheExample(t *testing.T) {
 
 // P48.2
 func TestCodes(t *testing.T) {
-	w := make(t, world.Conf{2, 3, 60})
+	w := opened(t, world.Conf{2, 3, 60})
 	raws, _ := msg.Encode(msg.Msg{Kind: msg.Ask, Cmd: api.Cmd{Kind: api.DoSub, Dev: 5, Req: 1, Filter: all, Mask: 1}})
 	for i, x := range []struct {
 		o    script.Op
@@ -132,7 +132,7 @@ func TestCodes(t *testing.T) {
 
 // P48.2
 func TestAFullNet(t *testing.T) {
-	w := make(t, world.Conf{1, 1, 60})
+	w := opened(t, world.Conf{1, 1, 60})
 	run(t, w, want(0))
 	for range api.MaxNet {
 		run(t, w, dev(script.Say, 0))
@@ -144,7 +144,7 @@ func TestAFullNet(t *testing.T) {
 
 // P48.2, P48.3
 func TestDown(t *testing.T) {
-	w := make(t, world.Conf{1, 1, 60})
+	w := opened(t, world.Conf{1, 1, 60})
 	run(t, w, create(), n(script.Fuse, 1))
 	before := w.State()
 	if w.Do(create()) != api.ErrPower || !w.Down() || w.Server() == nil || !state.Same(w.State(), before) || w.Disk().Waiting() != 1 {
@@ -231,7 +231,7 @@ func TestAnyWorld(t *testing.T) {
 	s := sample.New(48)
 	asked, unknown := 0, 0
 	for range 60 {
-		w := make(t, world.Conf{4, 1 + s.Below(6), 150})
+		w := opened(t, world.Conf{4, 1 + s.Below(6), 150})
 		past := map[int]*book.Book{}
 		last := [4]api.Token{}
 		for range 350 {
