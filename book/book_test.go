@@ -45,7 +45,7 @@ func TestDo(t *testing.T) {
 		{join(1, 2), steps(6, 2), api.OK}, {join(1, 1), steps(7, 1), api.OK}, {join(3, 1), steps(8, 1), api.OK}, {join(1, 3), steps(9, 3), api.OK},
 		{api.Edit{}, nil, api.ErrArg}, {api.Edit{Kind: api.Create}, nil, api.ErrMask}, {api.Edit{Kind: api.Open, Group: 16}, nil, api.ErrArg}, {api.Edit{Kind: 8}, nil, api.ErrArg},
 		{open(1), nil, api.ErrThere}, {shut(2), nil, api.ErrNone}, {join(2, 1), nil, api.ErrNone}, {join(1, 9), nil, api.ErrNone}, {join(2, 9), nil, api.ErrNone}, {join(1, 1), nil, api.ErrThere}, {quit(3, 2), nil, api.ErrNone}, {quit(2, 1), nil, api.ErrNone}, {write(9), nil, api.ErrNone}, {drop(9), nil, api.ErrNone},
-		{write(2), steps(10, 2), api.OK}, {quit(1, 3), steps(11, 3), api.OK}, {drop(1), steps(12, 1), api.OK}, {drop(1), nil, api.ErrGone}, {write(1), nil, api.ErrGone}, {join(1, 1), nil, api.ErrGone}, {quit(1, 1), nil, api.ErrNone},
+		{write(2), steps(10, 2), api.OK}, {quit(1, 3), steps(11, 3), api.OK}, {drop(1), steps(12, 1), api.OK}, {drop(1), nil, api.ErrGone}, {write(1), nil, api.ErrGone}, {join(1, 1), nil, api.ErrGone}, {join(2, 1), nil, api.ErrGone}, {quit(1, 1), nil, api.ErrNone},
 		{join(1, 3), steps(13, 3), api.OK}, {shut(1), steps(14, 2, 15, 3, 16, 0), api.OK}, {shut(3), steps(17, 0), api.OK}, {create(), steps(18, 4), api.OK},
 	} {
 		before := b.Data()

@@ -75,7 +75,7 @@ func TestTalk(t *testing.T) {
 		t.Errorf("a device with a write is quiet")
 	}
 	w.Do(script.Op{Kind: script.Fuse, N: 1})
-	if bound.Talk(w, 0, 1) != api.OK || bound.Talk(w, 0, 0) != api.ErrPower || bound.Talk(w, 0, 0) != api.ErrState || bound.Quiet(w, 1) {
+	if bound.Talk(w, 0, 1) != api.OK || bound.Talk(w, 0, 0) != api.ErrPower || bound.Talk(w, 0, 0) != api.ErrState || bound.Talk(w, 1, 0) != api.ErrState || bound.Talk(w, 2, 0) != api.ErrArg || bound.Quiet(w, 1) {
 		t.Errorf("a talk when the power goes")
 	}
 }

@@ -160,6 +160,9 @@ func TestEdit(t *testing.T) {
 	}
 	for d.Edit(3, num(1, 1)) == api.OK {
 	}
+	if d.Edit(3, num(5, 1)) != api.ErrMask || d.Edit(9, num(1, 1)) != api.ErrNone || d.Edit(3, num(1, -1)) != api.ErrArg {
+		t.Errorf("Edit of what may not be, of a device whose queue is full")
+	}
 	if d.Edit(3, num(1, 1)) != api.ErrFull || len(d.Queue()) != api.MaxQueue || d.Queue()[11] != (queue.Write{ID: 3, Base: 14, Patch: num(1, 1)}) {
 		t.Errorf("Edit of one too many: %v", d.Queue())
 	}

@@ -195,6 +195,26 @@ func TestErrors(t *testing.T) {
 		}
 	}
 	d = at(1, 1)
+	v, _, _, _ = vault.Open(d)
+	d.Fuse(0)
+	if v.Add("x") != api.ErrPower || v.Add(rec(999)) != api.ErrState || v.Renew(rec(999)) != api.ErrState {
+		t.Errorf("a vault that failed is asked for too much")
+	}
+	bad := disk.New(6)
+	root.Store(bad, root.Root{Seq: most, Life: most})
+	small := disk.New(2)
+	small.Fuse(0)
+	small.Sync()
+	for d, want := range map[*disk.Disk]api.Errno{bad: api.ErrBad, small: api.ErrArg} {
+		_, _, lookErr := vault.Look(d)
+		if v, _, _, err := vault.Open(d); v != nil || err != want || lookErr != want {
+			t.Errorf("Look and Open = %d, %d; want %d", lookErr, err, want)
+		}
+	}
+	if vault.Format(small, "a") != api.ErrArg {
+		t.Errorf("Format of a small disk without power")
+	}
+	d = at(1, 1)
 	d.Fuse(1)
 	if v, text, recs, err := vault.Open(d); v != nil || text != "" || recs != nil || err != api.ErrPower {
 		t.Errorf("Open when the power goes = %d", err)
