@@ -127,6 +127,10 @@ func TestWorlds(t *testing.T) {
 	if got, ok := audit.Device(nil, 0); ok || got != (audit.Finding{}) || audit.All(nil) != nil {
 		t.Errorf("no world = %v, %v", got, ok)
 	}
+	six, _ := world.New(world.Conf{Devs: 6, Page: 2, Size: 9})
+	if got := audit.All(six); !slices.Equal(got, make([]audit.Finding, 6)) {
+		t.Errorf("All of six devices = %v", got)
+	}
 	w.Do(act(script.Fuse, 0, 0))
 	w.Do(change)
 	if got, ok := audit.Device(w, 0); ok || got != (audit.Finding{}) || len(audit.All(w)) != 0 {
